@@ -14,7 +14,7 @@ const ErrText = 2
 const ErrFull = 3
 const ErrPlace = 4
 
-// The bytes of a leaf's Text that its shown text has as they are (but " and \); the others are shown by their numbers.
+// The bytes that a text may have as they are; a leaf's shown text has the others by their numbers.
 const firstPlain = 32
 const lastPlain = 126
 const lastByte = 255
@@ -72,7 +72,7 @@ func TreeRead(s string) (tree Tree, code int, at int) {
 	if len(s) > MaxShow {
 		return Tree{}, ErrBad, 0
 	}
-	scan := treeScanner{text: s}
+	scan := treeScanner{textScanner{text: s}}
 	read := outward(scan.whole())
 	if !TreeOK(read) {
 		return Tree{}, ErrFull, 0
@@ -133,15 +133,15 @@ func TreeHash(t Tree) (int, int) {
 	return int(hash), OK
 }
 
-// treeFault is what a walk or the scanner panics with, and what the face that recovers answers.
-type treeFault struct {
+// innerFault is what a walk or a scanner panics with, and what the face that recovers answers.
+type innerFault struct {
 	code int
 	at   int
 }
 
-// faultIn lets a panic that is no treeFault go on: that one is a mistake of the program, and no answer.
-func faultIn(caught any) treeFault {
-	if fault, ok := caught.(treeFault); ok {
+// faultIn lets a panic that is no innerFault go on: that one is a mistake of the program, and no answer.
+func faultIn(caught any) innerFault {
+	if fault, ok := caught.(innerFault); ok {
 		return fault
 	}
 	panic(caught)
@@ -157,7 +157,7 @@ func (w *treeWalk) through(t Tree, depth int) {
 	w.nodes++
 	w.depth = max(w.depth, depth)
 	if w.nodes > MaxNodes || depth > MaxDepth || !rightAlone(t) {
-		panic(treeFault{code: ErrBad})
+		panic(innerFault{code: ErrBad})
 	}
 	for _, kid := range t.Kids {
 		w.through(kid, depth+1)
@@ -305,24 +305,38 @@ func (n treeNode) put(path []int, form treeForm) (treeForm, bool) {
 	return treeNode{name: n.name, kids: kids}, true
 }
 
-// treeScanner reads a tree's text; it panics at the first byte with which the text cannot go on.
-type treeScanner struct {
+// textScanner goes through a text; it panics at the first byte with which the text cannot go on.
+type textScanner struct {
 	text string
 	at   int
 }
 
-func (s *treeScanner) fault() treeFault { return treeFault{code: ErrText, at: s.at} }
+func (s *textScanner) fault() innerFault { return innerFault{code: ErrText, at: s.at} }
 
-func (s *treeScanner) sees(b byte) bool { return s.at < len(s.text) && s.text[s.at] == b }
+func (s *textScanner) sees(b byte) bool { return s.at < len(s.text) && s.text[s.at] == b }
 
-func (s *treeScanner) seesDigit() bool { return s.at < len(s.text) && isDigit(s.text[s.at]) }
-
-func (s *treeScanner) pass(b byte) {
+func (s *textScanner) pass(b byte) {
 	if !s.sees(b) {
 		panic(s.fault())
 	}
 	s.at++
 }
+
+// plain passes a byte that a text may have as it is.
+func (s *textScanner) plain() byte {
+	if s.at == len(s.text) || s.text[s.at] < firstPlain || s.text[s.at] > lastPlain {
+		panic(s.fault())
+	}
+	s.at++
+	return s.text[s.at-1]
+}
+
+// treeScanner reads a tree's text.
+type treeScanner struct {
+	textScanner
+}
+
+func (s *treeScanner) seesDigit() bool { return s.at < len(s.text) && isDigit(s.text[s.at]) }
 
 // blanks tells whether there were any, for the places where one at least must stand.
 func (s *treeScanner) blanks() bool {
@@ -412,11 +426,7 @@ func (s *treeScanner) shownByte() byte {
 		s.at++
 		return s.escaped()
 	}
-	if s.at == len(s.text) || s.text[s.at] < firstPlain || s.text[s.at] > lastPlain {
-		panic(s.fault())
-	}
-	s.at++
-	return s.text[s.at-1]
+	return s.plain()
 }
 
 func (s *treeScanner) escaped() byte {
