@@ -180,18 +180,21 @@ func isName(s string) bool {
 		return false
 	}
 	for i := 1; i < len(s); i++ {
-		if !isNameByte(s[i]) {
+		if !isNameSign(s[i]) {
 			return false
 		}
 	}
 	return true
 }
 
-func isNameByte(b byte) bool { return isLetter(b) || isDigit(b) || b == '_' }
+// sign is one of a text that is gone through by bytes, or by runes.
+type sign interface{ byte | rune }
 
-func isLetter(b byte) bool { return 'a' <= b && b <= 'z' || 'A' <= b && b <= 'Z' }
+func isNameSign[S sign](s S) bool { return isLetter(s) || isDigit(s) || s == '_' }
 
-func isDigit(b byte) bool { return '0' <= b && b <= '9' }
+func isLetter[S sign](s S) bool { return 'a' <= s && s <= 'z' || 'A' <= s && s <= 'Z' }
+
+func isDigit[S sign](s S) bool { return '0' <= s && s <= '9' }
 
 // treeForm is a tree as the faces work on it: a treeLeaf or a treeNode.
 type treeForm interface {
@@ -403,7 +406,7 @@ func (s *treeScanner) name() string {
 	if s.at == len(s.text) || !isLetter(s.text[s.at]) {
 		panic(s.fault())
 	}
-	for s.at < len(s.text) && s.at-from < MaxName && isNameByte(s.text[s.at]) {
+	for s.at < len(s.text) && s.at-from < MaxName && isNameSign(s.text[s.at]) {
 		s.at++
 	}
 	return s.text[from:s.at]
