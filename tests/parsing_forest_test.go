@@ -236,29 +236,73 @@ func TestPicksUpToTheHighestCount(t *testing.T) {
 	wantPick(t, b, make([]int, 13), impl.MaxCount-1, []int{0, 2, 2, 2, 2, 2, 2, 2, 2, 2, 32, 18, 1, 19, 33}, impl.OK)
 }
 
-// bigEmpty has one derivation of the empty word; each of its Nons makes it of the next one, 12 times.
-func bigEmpty(nons int) impl.Bnf {
+// bigEmpty has one derivation of the empty word; each of its Nons makes it of the next one, this many times.
+func bigEmpty(nons int, times int) impl.Bnf {
 	b := impl.Bnf{Nons: strings.Split("S"+manyLetters(60)[:nons-1], ""), Own: 1}
 	for i := range nons - 1 {
-		b.Prods = append(b.Prods, impl.Prod{Left: i, Right: slices.Repeat([]int{i + 1}, impl.MaxRight)})
+		b.Prods = append(b.Prods, impl.Prod{Left: i, Right: slices.Repeat([]int{i + 1}, times)})
 	}
 	b.Prods = append(b.Prods, impl.Prod{Left: nons - 1})
 	return b
 }
 
+// Promise 9: how long a derivation is does not matter.
 func TestPicksThatAreLongerThanAWordIs(t *testing.T) {
-	// 1 + 12 + 144 + 1728 + 20736 numbers.
-	list := mustPick(t, bigEmpty(5), nil, 0)
-	if len(list) != 22621 || !slices.Equal(list[:18], []int{0, 1, 2, 3, 4, 4, 4, 4, 4, 4, 4, 4, 4, 4, 4, 4, 3, 4}) {
-		t.Error(len(list), list[:18])
+	for _, x := range []struct{ nons, times, length int }{
+		{5, 12, 22621}, {7, 12, 3257437}, {22, 2, 4194303}, {23, 2, 8388607}, {24, 2, 16777215}, {15, 3, 7174453}, {60, 1, 60}, {2, 12, 13},
+	} {
+		list := mustPick(t, bigEmpty(x.nons, x.times), nil, 0)
+		if len(list) != x.length || !countsDown(list, x.nons-1, x.times) {
+			t.Error(x, len(list))
+		}
 	}
 	// There is no room for the numbers of this one; its forest is small.
-	b := bigEmpty(40)
+	b := bigEmpty(40, 12)
 	if nodes := mustForest(t, b, nil); len(nodes) != 40 {
 		t.Error(len(nodes))
 	}
 	wantPick(t, b, nil, 0, nil, impl.ErrFull)
 	wantPick(t, b, nil, 1, nil, impl.ErrPlace)
+}
+
+// countsDown tells whether a list is the derivation by bigEmpty whose last Prod is this one.
+func countsDown(list []int, last int, times int) bool {
+	left := []int{1}
+	for _, prod := range list {
+		for len(left) > 0 && left[len(left)-1] == 0 {
+			left = left[:len(left)-1]
+		}
+		if len(left) == 0 || prod != len(left)-1 {
+			return false
+		}
+		left[prod]--
+		if prod < last {
+			left = append(left, times)
+		}
+	}
+	return !slices.ContainsFunc(left, func(n int) bool { return n > 0 })
+}
+
+// Each of the last 4096 symbols makes the empty word in two ways: the numbers of the last 20 change.
+func TestLongPicksOfMany(t *testing.T) {
+	b := bigEmpty(13, 2)
+	b.Prods = append(b.Prods, impl.Prod{Left: 12})
+	first := mustPick(t, b, nil, 0)
+	if len(first) != 8191 || !countsDown(first, 12, 2) {
+		t.Fatal(len(first))
+	}
+	for _, k := range []int{0, 1, 2, 3, 4, 1023, 1024, 98765, 524288, impl.MaxCount - 1} {
+		want := slices.Clone(first)
+		digits := k
+		for at, prod := range slices.Backward(want) {
+			if prod == 12 {
+				want[at] += digits % 2
+				digits /= 2
+			}
+		}
+		wantPick(t, b, nil, k, want, impl.OK)
+	}
+	wantPick(t, b, nil, impl.MaxCount, nil, impl.ErrPlace)
 }
 
 func TestForestsOfWrongInputs(t *testing.T) {
