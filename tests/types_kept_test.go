@@ -71,7 +71,7 @@ func TestTypesOfManyTerms(t *testing.T) {
 	}
 }
 
-// smallTerms are all of two names and some leaves that are so deep at most, of all forms, as far as the others are: with a Let, an App, or an If alone.
+// smallTerms are terms of two names and two other leaves, at most three deep: all Lams of smaller ones, and some of each other form, the same in each run.
 func smallTerms() []impl.Tree {
 	leaves := []impl.Tree{id("x"), id("y"), leaf("Num", "1"), leaf("Yes", "")}
 	all := slices.Clone(leaves)
