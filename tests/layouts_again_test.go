@@ -12,6 +12,7 @@ import (
 // tongue is a language in which texts are set anew, with some texts for each of its tokens, and some that may stand between words.
 type tongue struct {
 	name   string
+	source string
 	rules  []impl.Rule
 	b      impl.Bnf
 	table  impl.Table
@@ -28,7 +29,7 @@ func tongueOf(t *testing.T, source string, tokens map[string][]string, gaps ...s
 		t.Fatalf("LexRules of %s: %d", source, code)
 	}
 	table, _ := mustTable(t, b, impl.KdMerged)
-	return tongue{name: g.Name, rules: rules, b: b, table: table, tokens: tokens, gaps: gaps}
+	return tongue{name: g.Name, source: source, rules: rules, b: b, table: table, tokens: tokens, gaps: gaps}
 }
 
 // read is the tree of a text, if it is one of the language.
